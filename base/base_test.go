@@ -270,7 +270,7 @@ func TestP23_1DoOfNoStatement(t *testing.T) {
 	}
 }
 
-// A text is parsed ahead of all that Exec does.
+// A text is parsed ahead of all that Exec does; of nil it is not.
 func TestP23_1DoOrder(t *testing.T) {
 	var none *base.Base
 	b := two(t)
@@ -280,7 +280,7 @@ func TestP23_1DoOrder(t *testing.T) {
 		text string
 		want api.Errno
 	}{
-		{none, -1, "selec", api.ErrSyntax}, {none, 0, "selec", api.ErrSyntax}, {b, -1, "selec", api.ErrSyntax},
+		{none, -1, "selec", api.ErrNil}, {none, 0, "selec", api.ErrNil}, {b, -1, "selec", api.ErrSyntax},
 		{none, -1, "select * in x", api.ErrNil}, {none, 0, "begin", api.ErrNil},
 		{b, -1, "select * in x", api.ErrRange}, {b, sessions, "begin", api.ErrRange},
 		{b, 0, "select * in x", api.ErrNoent}, {b, 0, "commit", api.ErrState},

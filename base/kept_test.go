@@ -4,6 +4,7 @@ import (
 	"fmt"
 	"math"
 	"slices"
+	"strings"
 	"testing"
 
 	"regesta/api"
@@ -547,18 +548,29 @@ func TestP23_8ExplainOrder(t *testing.T) {
 	}
 }
 
+// anyTexts are statements that are right, and texts that have each of the errors that a text may have.
+func anyTexts() []string {
+	return []string{
+		"begin", "commit", "select * in t", "delete t where k = 1", "prune 0", "create table x (a int)",
+		"", " ", "'", "\xff", "\x00", "select", "selec", "begin begin", "delete t where", "prune 99999999999999999999", "insert into t values (1) from 0 to 5 6",
+		"select * in t where not not not not not not k = 1", strings.Repeat("x", api.MaxText+1), strings.Repeat("x ", api.MaxTokens+1),
+	}
+}
+
 func TestP1Nil(t *testing.T) {
 	var b *base.Base
 	b.Tick(5)
 	b.Tick(-5)
 	for _, id := range append(nobody(), 0, 3) {
-		want(t, "Do", toldReply(b.Do(id, "begin")), "1 0 0")
+		for _, text := range anyTexts() {
+			want(t, fmt.Sprintf("Do(%d, %q)", id, text), fmt.Sprintf("%+v", b.Do(id, text)), fmt.Sprintf("%+v", api.Reply{Errno: api.ErrNil}))
+			told, e := b.Explain(id, text)
+			want(t, fmt.Sprintf("Explain(%d, %q)", id, text), fmt.Sprint(told, e), fmt.Sprint("", api.ErrNil))
+		}
 		want(t, "Exec", toldReply(b.Exec(id, stmt(t, "begin"))), "1 0 0")
 		want(t, "Exec", toldReply(b.Exec(id, api.Stmt{})), "1 0 0")
 		view, e := b.View(id)
 		want(t, "View", fmt.Sprint(view == nil, e), fmt.Sprint(true, api.ErrNil))
-		text, e := b.Explain(id, "select * in t")
-		want(t, "Explain", fmt.Sprint(text, e), fmt.Sprint("", api.ErrNil))
 		want(t, "Open", b.Open(id), false)
 	}
 	want(t, "Replay", b.Replay(api.Effect{Kind: api.WholeIt}), api.ErrNil)
