@@ -121,6 +121,9 @@ func (d *dice) asking(t *testing.T, m *model) (string, string) {
 	id := d.below(6)
 	kind, text := d.below(4), d.statement()
 	line := []string{"clock", "stored", fmt.Sprint("rows ", id), fmt.Sprint("plan ", id, " ", text)}[kind]
+	if kind == 3 && text == "" {
+		return line, "word"
+	}
 	if m.store == nil {
 		return line, "lost"
 	}
@@ -176,7 +179,10 @@ func (d *dice) doing(t *testing.T, m *model) (string, string) {
 		return fmt.Sprint("tick ", n), "ok"
 	}
 	id, text := d.below(5), d.statement()
-	line := strings.TrimRight(fmt.Sprint(id, " ", text), " ")
+	line := fmt.Sprint(id, " ", text)
+	if text == "" {
+		return line, "word"
+	}
 	if m.store == nil {
 		return line, "lost"
 	}
@@ -231,7 +237,7 @@ func TestP26_1LongScripts(t *testing.T) {
 		is(t, "Run without the last line feed", script.Run(strings.TrimSuffix(text, "\n")), ended(answers))
 		is(t, "Run of empty lines, too", script.Run(strings.ReplaceAll(text, "\n", "\n\n \n")), ended(answers))
 	}
-	for _, answer := range []string{"0", "2", "5", "7", "8", "11", "13", "14", "15", "lost", "ok", "-", "t"} {
+	for _, answer := range []string{"0", "2", "5", "7", "8", "11", "13", "14", "15", "word", "lost", "ok", "-", "t"} {
 		if met[answer] < 10 {
 			t.Errorf("%s was met %d times", answer, met[answer])
 		}

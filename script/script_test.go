@@ -206,12 +206,12 @@ func TestRunOfLongTexts(t *testing.T) {
 // wrong are lines that are none of those of the chapter.
 func wrong() []string {
 	return []string{
-		"x", "begin", "select * in t", "10 begin", "00 begin", "-1 begin", "0begin", "+0 begin", "٣ begin", "0, begin", "Tick 5", "TICK 5", "ticks 5", "tic 5",
+		"0", "9", "  3", "4   ", "10", "00", "x", "begin", "select * in t", "10 begin", "00 begin", "-1 begin", "0begin", "+0 begin", "٣ begin", "0, begin", "Tick 5", "TICK 5", "ticks 5", "tic 5",
 		"tick", "tick x", "tick -1", "tick 10000", "tick 01", "tick 00", "tick 1 2", "tick 5 x", "tick 5.", "tick +5", "tick 0x5", "tick ٣",
 		"check 0", "check check", "checks", "clock 0", "clock clock", "clocks", "stored 1", "stored t",
 		"cut", "cut x", "cut -1", "cut 10000", "cut 05", "cut 1 1", "disk", "disk x", "disk -4", "disk 10000", "disk 064", "disk 64 64", "disk 4 x",
 		"crash 2", "crash 1 2", "crash 10", "crash 01", "crash x", "crash 1 1 1 x", "crash -1", "crash true", "crash 1 00", "crash 1,0",
-		"rows", "rows x", "rows -1", "rows 00", "rows 0 0", "rows 0 t", "rows t", "plan", "plan x select * in t", "plan 10 select * in t", "plan 00 select * in t", "plan -1 select * in t", "plan select * in t",
+		"rows", "rows x", "rows -1", "rows 00", "rows 0 0", "rows 0 t", "rows t", "plan", "plan 0", "plan 9  ", "  plan  1", "plan 10", "plan x", "plan plan 0 x", "plan x select * in t", "plan 10 select * in t", "plan 00 select * in t", "plan -1 select * in t", "plan select * in t",
 	}
 }
 
@@ -228,7 +228,7 @@ func TestRunOfStatements(t *testing.T) {
 	answers(t, "0 create table t (k int, v text) => 0 0 0", "0 insert into t values (1, 'a b') from 0 to 5 => 0 1 1", "3 insert into t values (-2, 'it''s') from -3 to -1 => 0 1 2",
 		"1 select * in t => 0 2 0 -2,'it''s':-3--1 1,'a b':0-5", "2 select v in t from 1 to 3 => 0 2 0 'it''s':-3--1@2-3 'a b':0-5@1-3",
 		"0 create table t (k int) => 6 0 0", "0 insert into x values (1) from 0 to 5 => 5 0 0", "0 insert into t values ('a', 'b') from 0 to 5 => 9 0 0", "0 insert into t values (1, 'b') from 5 to 5 => 10 0 0", "0 insert into t values (1, 'b') from 4 to 5 => 11 0 0",
-		"0 => 8 0 0", "0 x => 8 0 0", "9 => 8 0 0", "9 begin => 2 0 0", "4 begin => 2 0 0", "5 select * in t => 2 0 0", "0 commit => 7 0 0",
+		"0 x => 8 0 0", "9 begin => 2 0 0", "4 begin => 2 0 0", "5 select * in t => 2 0 0", "0 commit => 7 0 0",
 		// The words are told with one blank between, so that within a text there is one, too.
 		"   3    insert into    t values (3, 'x    y') from 0 to    1   => 0 1 3", "3 select * in t where k = 3 => 0 1 0 3,'x y':0-1",
 		"0 begin => 0 0 3", "1 begin => 0 0 3", "0 delete t => 0 3 0", "1 delete t from 0 to 1 => 0 2 0", "0 commit => 0 0 4", "1 commit => 13 0 0", "1 rollback => 7 0 0")
@@ -259,7 +259,7 @@ func TestRunOfRows(t *testing.T) {
 func TestRunOfPlan(t *testing.T) {
 	answers(t, "0 create table t (k int, v text) => 0 0 0", "0 create table u (m text, n int) => 0 0 0",
 		"plan 0 select * in t => t scan", "plan 1 select * in t where k = -1 => t key -1", "plan 2 select v in t where (v = 'a' and k = 5) => t key 5", "plan 3 select * in u where m = 'it''s' => u key 'it''s'", "plan 0 select * in t join u on k = n where (m = 'x' and k = 1) => t key 1, u key 'x'",
-		"plan 0 delete t => 3", "plan 0 begin => 3", "plan 0 select * in x => 5", "plan 0 select * in t where v = 1 => 9", "plan 0 selec => 8", "plan 0 => 8", "plan 4 select * in t => 2", "plan 9 x => 2", "  plan   0   select *   in t => t scan", "clock => 0 0 0 2")
+		"plan 0 delete t => 3", "plan 0 begin => 3", "plan 0 select * in x => 5", "plan 0 select * in t where v = 1 => 9", "plan 0 selec => 8", "plan 0 x => 8", "plan 4 select * in t => 2", "plan 9 x => 2", "  plan   0   select *   in t => t scan", "clock => 0 0 0 2")
 }
 
 func TestRunOfCheck(t *testing.T) {
@@ -287,7 +287,7 @@ func TestRunOfDisk(t *testing.T) {
 	answers(t, "0 create table t (k int) => 0 0 0", "0 begin => 0 0 0", "tick 5 => ok", "disk 4 => 0", "clock => 0 0 0 0", "rows 0 => -", "0 commit => 7 0 0", "0 create table t (k int) => 0 0 0", "crash => 0", "0 create table t (k int) => 6 0 0", "disk 128 => 0", "0 create table t (k int) => 0 0 0")
 	for size, errno := range map[int]int{0: 1, 1: 2, 2: 2, 3: 2, 5: 2, 63: 2, 127: 2, 129: 1, 130: 1, 9999: 1} {
 		answers(t, "0 create table t (k int) => 0 0 0", fmt.Sprintf("disk %d => %d", size, errno),
-			"0 begin => lost", "0 => lost", "9 x => lost", "tick 5 => lost", "check => lost", "cut 0 => lost", "rows 0 => lost", "rows 9 => lost", "plan 0 select * in t => lost", "plan 9 x => lost", "stored => lost", "clock => lost", "word => word", "", "tick => word",
+			"0 begin => lost", "0 => word", "plan 1 => word", "9 x => lost", "tick 5 => lost", "check => lost", "cut 0 => lost", "rows 0 => lost", "rows 9 => lost", "plan 0 select * in t => lost", "plan 9 x => lost", "stored => lost", "clock => lost", "word => word", "", "tick => word",
 			// The disk is that one, and no other.
 			fmt.Sprintf("crash => %d", errno), "clock => lost", fmt.Sprintf("crash 1 0 => %d", errno), fmt.Sprintf("disk %d => %d", size, errno), "clock => lost",
 			"disk 6 => 0", "clock => 0 0 0 0", "0 create table t (k int) => 0 0 0", "crash => 0", "rows 0 => -", "0 create table t (k int) => 6 0 0")
@@ -347,8 +347,8 @@ func TestRunOfALostStore(t *testing.T) {
 			records = 4
 		}
 		twoRows(t, "tick 1 => ok", "1 begin => 0 0 2", "1 delete t => 0 2 0", fmt.Sprintf("cut %d => ok", cut), update+" => 7 0 0",
-			"0 begin => 7 0 0", "0 selec => 7 0 0", "9 begin => 7 0 0", "1 commit => 7 0 0", "1 select * in t => 7 0 0", "0 => 7 0 0", "check => 7", "tick 5 => ok", "cut 9 => ok", "x => word",
-			"rows 0 => "+ahead, "rows 1 => -", "rows 9 => 2", "plan 0 select * in t => t scan", "plan 0 x => 8", "stored => 2 0 0", fmt.Sprintf("clock => 1 2 0 %d", records))
+			"0 begin => 7 0 0", "0 selec => 7 0 0", "9 begin => 7 0 0", "1 commit => 7 0 0", "1 select * in t => 7 0 0", "0 => word", "check => 7", "tick 5 => ok", "cut 9 => ok", "x => word",
+			"rows 0 => "+ahead, "rows 1 => -", "rows 9 => 2", "plan 0 select * in t => t scan", "plan 0 x => 8", "plan 0 => word", "stored => 2 0 0", fmt.Sprintf("clock => 1 2 0 %d", records))
 	}
 }
 
